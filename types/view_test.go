@@ -249,36 +249,46 @@ func TestP805Flaws(t *testing.T) {
 	}
 }
 
+// TestP805Long: layer 5's refusal is not told under ErrLong, since the chapter names none there.
 func TestP805Long(t *testing.T) {
-	for kind, size := range flatKinds {
-		for at := range size {
-			for _, text := range []string{strings.Repeat("x", 8193), strings.Repeat("|", 2731), strings.Repeat("\x00", 4064), strings.Repeat("x", 1<<16)} {
-				_, under := esc.Escape(common, text)
-				for _, fill := range []string{"", "!", text} {
-					texts := make([]string, size)
-					for i := range at {
-						texts[i] = "!"
+	odd := api.Marks{Field: '\'', Comp: '!', Rep: '(', Esc: '"', Sub: '#'}
+	for _, m := range append(quoted(), common, odd) {
+		mark := string(rune(m.Field))
+		for kind, size := range flatKinds {
+			for at := range size {
+				for _, text := range []string{strings.Repeat("x", 8193), strings.Repeat(mark, 2731), strings.Repeat("\x00", 4064), strings.Repeat("x", 1<<16)} {
+					longAt(t, m, kind, size, at, text)
+				}
+				for _, text := range []string{strings.Repeat("x", 8192), strings.Repeat(mark, 2730) + "xx", strings.Repeat("x", 200)} {
+					if _, err := esc.Escape(m, text); err != nil {
+						t.Fatal(err)
 					}
+					texts := slices.Clone(firstRight[kind])
 					texts[at] = text
-					for i := at + 1; i < size; i++ {
-						texts[i] = fill
-					}
-					r, err := layOf(common, kind, texts)
-					refusedOver(t, "Lay of too long a text", err, api.ErrLong, at+1, under)
-					if r.Comps != nil {
-						t.Errorf("%v beside an error", r)
-					}
+					_, err := layOf(m, kind, texts)
+					refused(t, "Lay of a text at layer 5's bound", err, api.ErrType, at+1)
 				}
 			}
-			for _, text := range []string{strings.Repeat("x", 8192), strings.Repeat("|", 2730) + "xx", strings.Repeat("x", 200)} {
-				if _, err := esc.Escape(common, text); err != nil {
-					t.Fatal(err)
-				}
-				texts := slices.Clone(firstRight[kind])
-				texts[at] = text
-				_, err := layOf(common, kind, texts)
-				refused(t, "Lay of a text at layer 5's bound", err, api.ErrType, at+1)
+		}
+	}
+}
+
+// longAt lays a text that is too long at one part, with a wrong text in each part ahead of it.
+func longAt(t *testing.T, m api.Marks, kind string, size int, at int, text string) {
+	t.Helper()
+	for _, fill := range []string{"", "*", text} {
+		texts := make([]string, size)
+		for i := range texts {
+			texts[i] = "*"
+			if i > at {
+				texts[i] = fill
 			}
+		}
+		texts[at] = text
+		r, err := layOf(m, kind, texts)
+		refused(t, "Lay of too long a text", err, api.ErrLong, at+1)
+		if r.Comps != nil {
+			t.Errorf("%v beside an error", r)
 		}
 	}
 }
