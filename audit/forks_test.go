@@ -244,7 +244,7 @@ func (f fork) bookOf(side int, areas [2][]byte) string {
 }
 
 func TestForks(t *testing.T) {
-	for seed := range 150 {
+	for seed := range seeds(150) {
 		t.Run(strconv.Itoa(seed), func(t *testing.T) {
 			t.Parallel()
 			c := rand.New(rand.NewPCG(uint64(seed), 2102))

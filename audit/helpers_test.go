@@ -221,6 +221,14 @@ func isFault(t *testing.T, what string, err error, code api.Errno, at int) {
 	}
 }
 
+// seeds are so many beginnings of what is left to chance, few in a short test.
+func seeds(most int) int {
+	if testing.Short() {
+		return most / 10
+	}
+	return most
+}
+
 func begun(t *testing.T, s api.Setup) *Pair {
 	t.Helper()
 	p, err := New(s)
@@ -275,6 +283,48 @@ func (d *duo) does(e api.Event) []api.Seen {
 	goes(d.t, d.p, e, seen...)
 	d.events, d.seen = append(d.events, e), append(d.seen, seen)
 	return seen
+}
+
+// agrees: the Pair's one state is what the world is.
+func (d *duo) agrees() {
+	d.t.Helper()
+	if len(d.p.spots) != 1 {
+		d.t.Fatalf("%d states", len(d.p.spots))
+	}
+	at := d.p.spots[0]
+	for side, e := range d.engines {
+		x := d.p.sides[at.sides[side]]
+		if x.now != d.clocks[side] || x.up != (e != nil) || x.dead == d.disks[side].Alive() || x.fuse != d.fuses[side] {
+			d.t.Fatalf("side %d: clock %d, up %v, dead %v, fuse %d", side, x.now, x.up, x.dead, x.fuse)
+		}
+		if e == nil {
+			continue
+		}
+		want := e.Image()
+		want.Counts = api.Counts{}
+		if got := fmt.Sprintf("%+v", imageOf(x)); got != fmt.Sprintf("%+v", want) {
+			d.t.Fatalf("side %d is\n%s\nwant\n%+v", side, got, want)
+		}
+	}
+	f := d.p.flights[at.flight]
+	for side := range 2 {
+		if fmt.Sprint(f.pieces[side], f.half[side]) != fmt.Sprint(d.link.Flight(side), d.link.Half(side)) {
+			d.t.Fatalf("under way from %d: %q, broken %d", side, f.pieces[side], f.half[side])
+		}
+	}
+}
+
+// imageOf is an endpoint as an engine tells itself.
+func imageOf(x *endpoint) api.EngineImage {
+	i := api.EngineImage{
+		Now: x.now, Tables: x.tables, Written: x.written, Safe: x.safe, Held: x.held, Link: x.link.LinkWait, Open: x.delivered,
+		Frame: api.Deframing{Inside: x.frame.inside, Ending: x.frame.ending, Held: len(x.frame.kept), Size: x.frame.size, Garbage: x.frame.garbage},
+	}
+	for at, o := range x.tables.Out {
+		i.Sent = append(i.Sent, api.Sent{Out: o, Want: x.sent[at].Want, Under: x.sent[at].under})
+		i.Dues = append(i.Dues, x.sent[at].due)
+	}
+	return i
 }
 
 // sees: it is just this.

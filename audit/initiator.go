@@ -2,13 +2,10 @@ package audit
 
 import (
 	"slices"
-	"strings"
 
 	"courier/ack"
 	"courier/api"
 	"courier/decide"
-	"courier/esc"
-	"courier/mllp"
 	"courier/tree"
 )
 
@@ -17,51 +14,6 @@ type sent struct {
 	api.Want
 	under bool
 	due   int // 0: never
-}
-
-// question is the link message under way; without a control id there is none.
-type question struct {
-	api.LinkWait
-	text string // goes out again as it is, whatever the clock says then
-}
-
-// What a link message says in MSH-9 and MSH-13.
-const (
-	linkCode     = "QRY"
-	linkEvent    = "Q01"
-	probeNumber  = "0"
-	resyncNumber = "-1"
-)
-
-// tell makes an output, which waits for every record that was written ahead of it.
-func (s *endpoint) tell(x api.Seen) {
-	x.Side = s.side
-	s.held = append(s.held, api.Held{Seen: x, After: s.written})
-}
-
-// send makes the output of a frame, if there is room for it.
-func (s *endpoint) send(text []byte) {
-	if len(s.held) >= api.MaxHeld {
-		return
-	}
-	// Layer 4 refuses no text that a side has made or kept.
-	if framed, err := mllp.Frame(text); err == nil {
-		s.tell(api.Seen{Kind: api.SeenOut, Text: framed})
-	}
-}
-
-// leave gives up, in order, the outputs whose records are durable.
-func (s *endpoint) leave() []api.Seen {
-	var left []api.Seen
-	for len(s.held) > 0 && s.held[0].After <= s.safe {
-		x := s.held[0].Seen
-		if x.Kind == api.SeenDeliver {
-			s.delivered = append(s.delivered, x.Control)
-		}
-		left = append(left, x)
-		s.held = s.held[1:]
-	}
-	return left
 }
 
 func (s *endpoint) submit(text []byte) ([]api.Seen, api.Errno) {
@@ -289,80 +241,5 @@ func (s *endpoint) nextDue() int {
 func (s *endpoint) due(at int) {
 	want, acts, _ := decide.Due(s.tables.Out[at].Cond, s.sent[at].Want)
 	s.do(at, want, acts, answer{})
-	s.turn()
-}
-
-// ask sends a link message for the first time.
-func (s *endpoint) ask(w api.LinkWait) ([]api.Seen, api.Errno) {
-	switch {
-	case !isControl(w.Control):
-		return nil, api.ErrForm
-	case !s.own.Sequence:
-		return nil, api.ErrOff
-	case len(s.sent) > 0 || s.link.Control != "":
-		return nil, api.ErrBusy
-	case w.Reset && !isNumber(w.Next):
-		return nil, api.ErrArg
-	}
-	return s.step(func() {
-		w.Left = s.own.Tries
-		s.link = question{w, s.linkText(w)}
-		s.sendLink()
-	}), api.OK
-}
-
-func (s *endpoint) sendLink() {
-	s.send([]byte(s.link.text))
-	s.link.Due = s.soon()
-}
-
-// linkText is an MSH alone, under this side's marks. Layer 5 refuses none of these texts.
-func (s *endpoint) linkText(w api.LinkWait) string {
-	k, number := s.own.Marks, probeNumber
-	if w.Reset {
-		number = resyncNumber
-	}
-	text, _ := esc.Head("MSH", k)
-	for _, parts := range [][]string{
-		{s.own.App}, {s.own.Facility}, {s.other.App}, {s.other.Facility}, {s.stamp()}, {},
-		{linkCode, linkEvent}, {w.Control}, {s.other.Process}, {s.version}, {number},
-	} {
-		for i := range parts {
-			parts[i], _ = esc.Escape(k, parts[i])
-		}
-		text += string(rune(k.Field)) + strings.Join(parts, string(rune(k.Comp)))
-	}
-	return text + "\r"
-}
-
-// linkDue: the link message's timer has run out.
-func (s *endpoint) linkDue() {
-	if s.link.Left == 0 {
-		s.settleLink(api.StateFailed, "", nil)
-		return
-	}
-	s.link.Left--
-	s.sendLink()
-}
-
-// linkHeard: the link message was acknowledged. It is in original mode, in which no commit can come.
-func (s *endpoint) linkHeard(a api.Ack) {
-	if strings.HasPrefix(a.Code, "C") {
-		return
-	}
-	next := a.Expect
-	if s.link.Reset {
-		next = s.link.Next
-	}
-	if a.Code == "AA" && isNumber(next) {
-		s.record(api.Record{Kind: api.RecNext, Number: next})
-	}
-	s.settleLink(api.StateAnswered, a.Code, a.Errors)
-}
-
-// settleLink ends the link message. No record tells of it.
-func (s *endpoint) settleLink(state int, code string, found []api.Finding) {
-	s.tell(api.Seen{Kind: api.SeenAnswer, Control: s.link.Control, State: state, Code: code, Errors: found})
-	s.link = question{}
 	s.turn()
 }

@@ -256,6 +256,7 @@ func TestEndlessFrames(t *testing.T) {
 		for range 4 {
 			d.does(putting(0, []byte(strings.Repeat("z", 8195))))
 			d.does(carrying(0, 0, 0))
+			d.agrees()
 		}
 		d.does(putting(0, []byte("\x1c")))
 		d.does(carrying(0, 0, 0))
@@ -265,9 +266,13 @@ func TestEndlessFrames(t *testing.T) {
 		}
 		for d.link.Len(0) > 0 {
 			d.does(carrying(0, 0, 0))
+			d.agrees()
 		}
+		d.arrives(0, []byte("some more"))
+		d.agrees()
 		d.arrives(0, framed(message("A2", "", "AL NE")))
 		d.does(syncing(1))
+		d.agrees()
 	}
 }
 

@@ -82,7 +82,7 @@ func spoilAnswers(lists [][]api.Seen) {
 
 // What is handed in is neither kept nor changed, and what is answered is the holder's: written over all the time, a Pair goes on as one that is left alone.
 func TestMemoryIsWrittenOver(t *testing.T) {
-	for seed := range 60 {
+	for seed := range seeds(60) {
 		s, events, seen := run(t, 8000+uint64(seed), 100)
 		p, alone := begun(t, s), begun(t, s)
 		for i, e := range events {

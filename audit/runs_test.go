@@ -22,7 +22,7 @@ func story(s api.Setup, events []api.Event, seen [][]api.Seen) string {
 
 // Each run is the pair's, with crashes, fuses, noise and cut pieces among its events.
 func TestRuns(t *testing.T) {
-	for seed := range 600 {
+	for seed := range seeds(400) {
 		t.Run(strconv.Itoa(seed), func(t *testing.T) {
 			t.Parallel()
 			s, events, seen := run(t, uint64(seed), 150)
@@ -36,17 +36,16 @@ func TestRuns(t *testing.T) {
 
 // Where nothing crashes and no fuse is set May tells just one list, and the Pair is in one state.
 func TestCalmRuns(t *testing.T) {
-	for seed := range 200 {
+	for seed := range seeds(120) {
 		t.Run(strconv.Itoa(seed), func(t *testing.T) {
 			t.Parallel()
 			c := rand.New(rand.NewPCG(2106, uint64(seed)))
 			d := newDuo(t, anySetup(c))
 			next := chance{c, d.world, 0}
+			d.agrees()
 			for range 150 {
 				d.does(next.event())
-				if n := len(d.p.spots); n != 1 {
-					t.Fatalf("%d states", n)
-				}
+				d.agrees()
 			}
 		})
 	}

@@ -94,10 +94,10 @@ func (f *flight) text() string {
 	return string(p.text)
 }
 
-// list is what was seen in an event.
-type list []api.Seen
+// seenList is what was seen in an event.
+type seenList []api.Seen
 
-func (l list) text() string {
+func (l seenList) text() string {
 	p := &page{}
 	for _, s := range l {
 		p.seen(s)
