@@ -11,13 +11,10 @@ func (s *endpoint) tell(x api.Seen) {
 	s.held = append(s.held, api.Held{Seen: x, After: s.written})
 }
 
-// send makes the output of a frame, if there is room for it.
+// send makes the output of a frame, if there is room for it. An empty text is none that is sent.
 func (s *endpoint) send(text []byte) {
-	if len(s.held) >= api.MaxHeld {
-		return
-	}
-	// Layer 4 refuses no text that a side has made or kept.
-	if framed, err := mllp.Frame(text); err == nil {
+	// Layer 4 refuses no other text that a side has made or kept.
+	if framed, err := mllp.Frame(text); err == nil && len(s.held) < api.MaxHeld {
 		s.tell(api.Seen{Kind: api.SeenOut, Text: framed})
 	}
 }

@@ -216,11 +216,8 @@ func (s *endpoint) again(a arrival, x api.InEntry) {
 		s.refuse(a, flawAt(false, codeTwice, fieldControl))
 		return
 	}
-	for _, text := range [][]byte{x.Commit, x.Answer} {
-		if len(text) > 0 {
-			s.send(text)
-		}
-	}
+	s.send(x.Commit)
+	s.send(x.Answer)
 }
 
 // placeFlaw is why there is no place for a message that is right by itself: its number, or want of room.
@@ -259,9 +256,7 @@ func (s *endpoint) accept(a arrival) {
 		r.Commit = s.reply(a, a.cond.Enhanced, "CA", noNumber, nil)
 	}
 	s.record(r)
-	if len(r.Commit) > 0 {
-		s.send(r.Commit)
-	}
+	s.send(r.Commit)
 	s.tell(api.Seen{Kind: api.SeenDeliver, Control: r.Control, Text: r.Text, Number: r.Number})
 }
 
@@ -305,9 +300,7 @@ func (s *endpoint) judge(control, code string, found []api.Finding) {
 	}
 	s.record(r)
 	s.delivered = slices.DeleteFunc(s.delivered, func(id string) bool { return id == control })
-	if len(r.Answer) > 0 {
-		s.send(r.Answer)
-	}
+	s.send(r.Answer)
 }
 
 // reply is the text of the acknowledgement that goes back to a message. Layer 10 refuses none whose message has a control id.
