@@ -125,9 +125,7 @@ func (s *endpoint) compactLog() {
 	}
 	// The new snapshot is safe: the elder log goes, whether by this write or by the next restart.
 	s.behind = 0
-	if s.write() {
-		s.safe = s.written
-	}
+	s.write()
 }
 
 // step does a step that was not refused, behind the compaction that may come ahead of it.

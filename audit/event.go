@@ -27,11 +27,10 @@ type use struct {
 	tear    span
 }
 
-// uses stand by their kinds; a side that may be none is of a kind that is none.
+// uses stand by their kinds.
 func uses() [api.EvRaw + 1]use {
 	one, places := span{0, 1}, span{0, maxPlace}
 	return [...]use{
-		{side: span{1, 0}},
 		api.EvSubmit:  {side: one, text: true},
 		api.EvVerdict: {side: one, control: true, verdict: true},
 		api.EvTick:    {side: span{0, both}, count: span{1, api.MaxTicks}},
@@ -53,7 +52,7 @@ func uses() [api.EvRaw + 1]use {
 
 // mayBe tells whether an event is one that a script can say, whatever its texts are.
 func mayBe(e api.Event) bool {
-	if e.Kind < 0 || e.Kind > api.EvRaw {
+	if e.Kind < api.EvSubmit || e.Kind > api.EvRaw {
 		return false
 	}
 	u := uses()[e.Kind]

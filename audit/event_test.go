@@ -80,8 +80,10 @@ func takes(t *testing.T, e api.Event, want bool) {
 
 func TestKindsAreSixteen(t *testing.T) {
 	for _, k := range []int{math.MinInt, -16, -1, 0, 17, 18, 255, 256, 257, 1 << 32, 1<<32 + 1, math.MaxInt} {
-		takes(t, api.Event{Kind: api.EventKind(k)}, false)
-		takes(t, api.Event{Kind: api.EventKind(k), Count: 1}, false)
+		for side := range 3 {
+			takes(t, api.Event{Kind: api.EventKind(k), Side: side}, false)
+			takes(t, api.Event{Kind: api.EventKind(k), Side: side, Count: 1}, false)
+		}
 	}
 	if len(kinds()) != 16 {
 		t.Error("kinds are missing")
