@@ -120,7 +120,9 @@ func (s *endpoint) compactLog() {
 	if !s.write() || !s.write() {
 		return
 	}
-	if s.unsure = !s.write(); s.unsure {
+	if !s.write() {
+		// Where no record stands behind the elder snapshot the two are the same.
+		s.unsure = s.behind > 0
 		return
 	}
 	// The new snapshot is safe: the elder log goes, whether by this write or by the next restart.

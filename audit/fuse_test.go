@@ -188,6 +188,43 @@ func TestCompactHalfWayByEachTear(t *testing.T) {
 	}
 }
 
+// How far a Compact came tells states apart just where a crash may show it: where no record stands behind the snapshot it does not.
+func TestStatesOfACompactHalfWay(t *testing.T) {
+	for _, c := range []struct {
+		records, fuse int
+		dead, crashed int
+	}{
+		{0, 2, 1, 1},
+		{1, 2, 2, 2},
+		{1, 3, 3, 2},
+		{2, 3, 3, 2},
+	} {
+		p := begun(t, roomy(plainSetup()))
+		for i := range c.records {
+			id := []string{"A1", "A2"}[i]
+			goes(t, p, submitting(0, message(id, "", "")))
+		}
+		goes(t, p, crashing(0, area, area), down(0))
+		goes(t, p, fusing(0, c.fuse))
+		list, err := p.May(restarting(0))
+		if err != nil {
+			t.Fatal(err)
+		}
+		steps(t, p, restarting(0), list[len(list)-1]...)
+		if len(p.spots) != 3 {
+			t.Errorf("%+v: %d states", c, len(p.spots))
+		}
+		goes(t, p, of(api.EvCompact, 0), down(0))
+		if len(p.spots) != c.dead {
+			t.Errorf("%+v: %d states behind the Compact", c, len(p.spots))
+		}
+		goes(t, p, crashing(0, 5, 5))
+		if len(p.spots) != c.crashed {
+			t.Errorf("%+v: %d states behind the crash", c, len(p.spots))
+		}
+	}
+}
+
 // What a Compact ahead of a step has let out has left, also where the disk dies behind it; where it dies in the Compact nothing has.
 func TestDeathAheadOfAStep(t *testing.T) {
 	for fuse := range 8 {
