@@ -166,10 +166,10 @@ func plays(t *testing.T, beginning string, script string, report string) {
 	want := "0 up 0\n0 up 1\n" + report
 	got := Play(beginning + script)
 	if got != want {
-		t.Fatalf("%s: the report is\n%s\nwant\n%s", script, got, want)
+		t.Fatalf("%.3000s: the report is\n%.3000s\nwant\n%.3000s", script, got, want)
 	}
 	if at, err := Check(beginning+script, got); at != 0 || err != nil {
-		t.Fatalf("%s: Check: %d, %v", script, at, err)
+		t.Fatalf("%.3000s: Check: %d, %v", script, at, err)
 	}
 }
 
