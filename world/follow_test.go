@@ -44,6 +44,7 @@ func TestW1(t *testing.T) {
 
 // Where nothing crashes no thing that was seen may be missing, or come twice, or come a step earlier or later.
 func TestW1OtherReports(t *testing.T) {
+	t.Parallel()
 	for seed := range seeds(30) {
 		c := chanced(22091, uint64(seed), taste{calm: seed%2 == 0}, 45)
 		text := printed(t, c.script())

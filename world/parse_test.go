@@ -279,6 +279,7 @@ func TestParseBytes(t *testing.T) {
 
 // Each place of each kind missing, twice, and with numbers round its borders.
 func TestParsePlaces(t *testing.T) {
+	t.Parallel()
 	m := newMaker(2201, 0)
 	for _, r := range eventRows() {
 		for range 20 {
@@ -329,6 +330,7 @@ func TestParsePlaces(t *testing.T) {
 }
 
 func TestParseSpoiltLines(t *testing.T) {
+	t.Parallel()
 	good := 0
 	for seed := range seeds(300) {
 		m := newMaker(2201, uint64(seed))

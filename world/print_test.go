@@ -81,6 +81,7 @@ func someNumbers(p place) []int {
 }
 
 func TestPrintNumbers(t *testing.T) {
+	t.Parallel()
 	for _, r := range eventRows() {
 		for name, set := range map[string]func(e *api.Event, v int){
 			"side":   func(e *api.Event, v int) { e.Side = v },
@@ -107,6 +108,7 @@ var (
 )
 
 func TestPrintTexts(t *testing.T) {
+	t.Parallel()
 	for _, r := range eventRows() {
 		_, control := r.uses("control")
 		_, code := r.uses("code")
@@ -339,6 +341,7 @@ func rawOf(count int) api.Event {
 }
 
 func TestPrintTooLong(t *testing.T) {
+	t.Parallel()
 	rest := len(printed(t, scriptOf(rawOf(0))))
 	s := scriptOf(rawOf(longest - rest))
 	if text := printed(t, s); len(text) != longest {

@@ -64,6 +64,7 @@ func plainSeen(r row) api.Seen {
 }
 
 func TestReportNumbers(t *testing.T) {
+	t.Parallel()
 	for _, r := range seenRows() {
 		for name, set := range map[string]func(s *api.Seen, v int){
 			"side":   func(s *api.Seen, v int) { s.Side = v },
@@ -91,6 +92,7 @@ func TestReportNumbers(t *testing.T) {
 }
 
 func TestReportTexts(t *testing.T) {
+	t.Parallel()
 	for _, r := range seenRows() {
 		_, control := r.uses("control")
 		_, code := r.uses("answer")
@@ -274,6 +276,7 @@ func likeSecondSeen(t *testing.T, line string) bool {
 }
 
 func TestReadLines(t *testing.T) {
+	t.Parallel()
 	for _, line := range []string{
 		`1 out 0 ""`, `1 out 1 "\x00\"\\\r "`, `1 deliver 0 x 0 new ""`, `1 deliver 1 - 2147483647 again "x"`, "1 deliver 0 " + strings.Repeat("x", 64) + ` 1 new "y"`,
 		`1 answer 0 x answered AA`, `1 answer 1 x closed -`, `1 answer 0 x failed x 1 - 0 0 0 0 0`, `1 answer 0 x answered # 999 x 999 999 999 999 999`,

@@ -357,6 +357,7 @@ func TestRunCarry(t *testing.T) {
 
 // Frames that find no room under way are lost, and are told so behind themselves.
 func TestRunLost(t *testing.T) {
+	t.Parallel()
 	fill := func(side, count int) string {
 		return strings.Repeat(fmt.Sprintf("raw %d \"x\"\n", side), count)
 	}

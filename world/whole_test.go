@@ -107,6 +107,7 @@ type arrival struct {
 }
 
 func TestW2(t *testing.T) {
+	t.Parallel()
 	counted := 0
 	for seed := range seeds(200) {
 		c := newChance(1002, uint64(seed), anySetup(newMaker(1002, uint64(seed)).Rand), taste{harm: 3, calm: seed%2 == 0})
@@ -169,6 +170,7 @@ func TestW2(t *testing.T) {
 }
 
 func TestW3(t *testing.T) {
+	t.Parallel()
 	counted := 0
 	for seed := range seeds(200) {
 		c := newChance(1003, uint64(seed), anySetup(newMaker(1003, uint64(seed)).Rand), taste{harm: 2, calm: true, unlike: true})
@@ -221,6 +223,7 @@ type counting struct {
 }
 
 func TestW4(t *testing.T) {
+	t.Parallel()
 	counted := 0
 	for seed := range seeds(200) {
 		s := anySetup(newMaker(1004, uint64(seed)).Rand)
@@ -319,6 +322,7 @@ func (c *chance) calmTick() {
 }
 
 func TestW5(t *testing.T) {
+	t.Parallel()
 	counted := 0
 	for seed := range seeds(200) {
 		c := chanced(1005, uint64(seed), taste{harm: 2, calm: seed%2 == 0, unlike: true}, 100)
@@ -411,6 +415,7 @@ func (c *chance) wrongFrame() string {
 }
 
 func TestW6(t *testing.T) {
+	t.Parallel()
 	replies := 0
 	for seed := range seeds(100) {
 		s := anySetup(newMaker(1006, uint64(seed)).Rand)
