@@ -20,10 +20,7 @@ const maxFinding = 999
 
 // finding is a place of seven words.
 func finding(p pen, f *api.Finding) bool {
-	for i, n := range []*int{&f.Code, &f.Occur, &f.Field, &f.Rep, &f.Comp, &f.Sub} {
-		if i == 1 && !p.option(&f.Seg) || !p.number(n, 0, maxFinding) {
-			return false
-		}
-	}
-	return true
+	number := func(n *int) bool { return p.number(n, 0, maxFinding) }
+	return number(&f.Code) && p.option(&f.Seg) && number(&f.Occur) && number(&f.Field) &&
+		number(&f.Rep) && number(&f.Comp) && number(&f.Sub)
 }
